@@ -477,35 +477,39 @@ func TestReadNotesWithOneTokenThatIsNotRight(t *testing.T) {
 	}
 }
 
-// wantOneByteOff changes, adds and takes away each byte of a text that is read, and puts the text into itself.
-func wantOneByteOff(t *testing.T, s string, bytes []string) {
-	t.Helper()
+// eachOneByteOff changes, adds and takes away each byte of a text, and puts the text into itself.
+func eachOneByteOff(s string, bytes []string, do func(string)) {
 	for i := 0; i <= len(s); i++ {
 		for _, b := range bytes {
-			wantNotesByForm(t, s[:i]+b+s[i:])
+			do(s[:i] + b + s[i:])
 			if i < len(s) {
-				wantNotesByForm(t, s[:i]+b+s[i+1:])
+				do(s[:i] + b + s[i+1:])
 			}
 		}
-		wantNotesByForm(t, s[:i])
-		wantNotesByForm(t, s[i:])
-		wantNotesByForm(t, s[:i]+s+s[i:])
+		do(s[:i])
+		do(s[i:])
+		do(s[:i] + s + s[i:])
 		if i < len(s) {
-			wantNotesByForm(t, s[:i]+s[i+1:])
+			do(s[:i] + s[i+1:])
 		}
 	}
 }
 
-func TestReadNotesOneByteOff(t *testing.T) {
+func allBytes() []string {
 	all := []string{}
 	for b := range 256 {
 		all = append(all, byteText(b))
 	}
+	return all
+}
+
+func TestReadNotesOneByteOff(t *testing.T) {
+	wantByForm := func(s string) { wantNotesByForm(t, s) }
 	for _, s := range []string{"wide : 7px ;clear:9!strong", "color:#ff00aa80 !strong ; form : a", "show:hidden;left: -5%;what:1"} {
-		wantOneByteOff(t, s, all)
+		eachOneByteOff(s, allBytes(), wantByForm)
 	}
 	for s := range shownNotes {
-		wantOneByteOff(t, s, strings.Split("{:;.,!=a-09%# \nA\x00", ""))
+		eachOneByteOff(s, strings.Split("{:;.,!=a-09%# \nA\x00", ""), wantByForm)
 	}
 }
 
